@@ -5,6 +5,7 @@ import (
 	"slices"
 	"sync"
 	"testing"
+	"testing/synctest"
 
 	"depot/api"
 	"depot/solve"
@@ -247,7 +248,7 @@ func TestSameAgain(t *testing.T) {
 	}
 }
 
-// Sameness: so it does beside others, on one processor or many; and nobody is left behind.
+// Sameness: so it does beside others, on one processor or many.
 func TestSameBesideOneAnother(t *testing.T) {
 	var outcomes []api.Outcome
 	var lists [][][]bool
@@ -257,7 +258,6 @@ func TestSameBesideOneAnother(t *testing.T) {
 		list, _ := solve.All(f, vars, 40, config)
 		outcomes, lists = append(outcomes, o), append(lists, list)
 	}
-	routines := runtime.NumGoroutine()
 	for _, processors := range []int{1, runtime.NumCPU()} {
 		was := runtime.GOMAXPROCS(processors)
 		var group sync.WaitGroup
@@ -276,13 +276,17 @@ func TestSameBesideOneAnother(t *testing.T) {
 		group.Wait()
 		runtime.GOMAXPROCS(was)
 	}
-	for range 100 {
-		if runtime.NumGoroutine() <= routines {
-			return
+}
+
+// Sameness: no call leaves a goroutine behind: a bubble waits for all that were begun in it, and panics, if one is left that nobody can wake.
+func TestNobodyIsLeft(t *testing.T) {
+	synctest.Test(t, func(t *testing.T) {
+		for k := range uint64(24) {
+			f, config, vars := sample(k + 3500)
+			solve.Solve(f, config)
+			solve.All(f, vars, 40, config)
 		}
-		runtime.Gosched()
-	}
-	t.Errorf("%d goroutines, there were %d", runtime.NumGoroutine(), routines)
+	})
 }
 
 // Sameness: one formula at a time in several hands.

@@ -5,6 +5,7 @@ import (
 	"slices"
 	"sync"
 	"testing"
+	"testing/synctest"
 
 	"depot/api"
 	"depot/under"
@@ -258,14 +259,13 @@ func TestSameAgain(t *testing.T) {
 	}
 }
 
-// Sameness: so it does beside others, on one processor or many; and nobody is left behind.
+// Sameness: so it does beside others, on one processor or many.
 func TestSameBesideOneAnother(t *testing.T) {
 	var answers [][2]answer
 	for k := range uint64(24) {
 		q, config := sample(k + 3500)
 		answers = append(answers, asked(q, config))
 	}
-	routines := runtime.NumGoroutine()
 	for _, processors := range []int{1, runtime.NumCPU()} {
 		was := runtime.GOMAXPROCS(processors)
 		var group sync.WaitGroup
@@ -282,13 +282,16 @@ func TestSameBesideOneAnother(t *testing.T) {
 		group.Wait()
 		runtime.GOMAXPROCS(was)
 	}
-	for range 100 {
-		if runtime.NumGoroutine() <= routines {
-			return
+}
+
+// Sameness: no call leaves a goroutine behind: a bubble waits for all that were begun in it, and panics, if one is left that nobody can wake.
+func TestNobodyIsLeft(t *testing.T) {
+	synctest.Test(t, func(t *testing.T) {
+		for k := range uint64(24) {
+			q, config := sample(k + 3500)
+			asked(q, config)
 		}
-		runtime.Gosched()
-	}
-	t.Errorf("%d goroutines, there were %d", runtime.NumGoroutine(), routines)
+	})
 }
 
 // Sameness: one question at a time in several hands.
